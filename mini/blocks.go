@@ -2,7 +2,7 @@ package mini
 
 import "shibboleth/dfa"
 
-// step is one from a state by a byte of a class. (An automaton has as many steps as states times classes: they are kept small.)
+// step is one from a state by a byte of a class. (An automaton has as many steps as states times classes, so they are kept small; of 2^31 states and more the document promises nothing.)
 type step struct {
 	from  int32
 	class uint8
